@@ -83,7 +83,7 @@ func NormalUrl(u Url) (Url, bool) {
 	if !GoodUrl(u) {
 		return Url{}, false
 	}
-	u.Host = smallHost(u.Host)
+	u.Host = smallLetters(u.Host)
 	if u.Port == usualPort(u.Scheme) {
 		u.Port = 0
 	}
@@ -234,7 +234,7 @@ func normalPercents(s string) string {
 	return string(told)
 }
 
-func smallHost(s string) string {
+func smallLetters(s string) string {
 	small := []byte(s)
 	for i, b := range small {
 		if b >= 'A' && b <= 'Z' {
