@@ -203,6 +203,10 @@ func TestEachByteInASize(t *testing.T) {
 			want = impl.ChunkMore
 		}
 		for _, digits := range []string{s, "00" + s, "000" + s, "0" + s + "0"} {
+			if s != "\r" {
+				wantChunkCode(t, digits, want)
+				wantChunkCode(t, "1\r\na\r\n"+digits, want)
+			}
 			wantChunkCode(t, digits+"\r", want)
 			wantChunkCode(t, digits+"\r\n", want)
 			wantChunkCode(t, "1\r\na\r\n"+digits+"\r\n", want)
@@ -210,16 +214,30 @@ func TestEachByteInASize(t *testing.T) {
 	}
 }
 
-// A size is judged by its 13, or by more than four bytes without one.
+// Up to four hex digits without a 13 go on, however great; a fifth one, and any
+// other byte, is wrong whatever comes behind it.
 func TestSizesThatHaveNoEnd(t *testing.T) {
-	for _, s := range []string{"0", "00", "000", "0000", "1", "12", "12d", "0005", "ffff", "FFFF", "x", "xyz", "wxyz", " ", "    ", "-", "+5", "\n", "\n\n\n\n", "1\n", "1\nab", ";a", "\x00", "\xff\xff\xff\xff"} {
+	for _, s := range []string{"0", "00", "000", "0000", "1", "12", "12d", "0005", "00a", "ffff", "FFFF", "AbCd", "9999"} {
 		wantChunkCode(t, s, impl.ChunkMore)
 		wantChunkCode(t, "2\r\nab\r\n"+s, impl.ChunkMore)
+		wantChunkCode(t, strings.Repeat("1\r\na\r\n", 60)+s, impl.ChunkMore)
 		wantFed(t, s, impl.Unchunk{Rest: s})
 		for _, more := range []string{"00000", "xxxxx", "\n\n\n\n\n", "ffffff", strings.Repeat(" ", 3000)} {
 			long := (s + more)[:max(5, len(more))]
 			wantChunkCode(t, long, impl.ChunkBad)
 			wantChunkCode(t, "2\r\nab\r\n"+long, impl.ChunkBad)
+		}
+	}
+	for _, s := range []string{"x", "g", "G", "@", "`", "/", ":", "xyz", "wxyz", " ", "    ", "-", "-1", "+5", "\n", "\n\n", "\n\n\n\n", "1\n", "1\nab", "0\n", "0\n\n", "000\n", "0000\n", "ffff\n", "12d\n", "1 ", "1;", "1;a", "1g", "12cx", ";a", "\x00", "0\x00", "\xff\xff\xff\xff"} {
+		wantChunkCode(t, s, impl.ChunkBad)
+		wantChunkCode(t, "2\r\nab\r\n"+s, impl.ChunkBad)
+		wantChunkCode(t, "2\r\n\r\n\r\n"+s, impl.ChunkBad)
+		wantChunkCode(t, strings.Repeat("1\r\na\r\n", 60)+s, impl.ChunkBad)
+		wantFed(t, s, impl.Unchunk{Wrong: true})
+		wantFed(t, s+lastChunk, impl.Unchunk{Wrong: true})
+		u := impl.Unchunk{Rest: s}
+		if fed, ok := impl.FeedUnchunk(u, lastChunk); ok || fed != (impl.Unchunk{}) || impl.GoodUnchunk(u) {
+			t.Errorf("FeedUnchunk(%+v) = %+v, %v", u, fed, ok)
 		}
 	}
 	for s, want := range map[string]int{"": impl.ChunkMore, "1\r": impl.ChunkMore, "0\r": impl.ChunkMore, "0000\r": impl.ChunkMore, "012a\r": impl.ChunkMore, "\r": impl.ChunkBad, "x\r": impl.ChunkBad, "12d\r": impl.ChunkBad, "00000\r": impl.ChunkBad, "00005\r": impl.ChunkBad, "123456\r": impl.ChunkBad, "00000": impl.ChunkBad, "00005": impl.ChunkBad, "12345": impl.ChunkBad} {
@@ -377,7 +395,7 @@ func TestChunkBytesRefuses(t *testing.T) {
 // Texts that are wrong and end too soon as well.
 func TestWhatIsWrongAndCutIsBad(t *testing.T) {
 	for _, s := range []string{
-		"x\r", "\r", " 5\r", "5 \r", "00005", "00005\r", "5;a=b",
+		"x", "\n", " ", "5;", "5\n", "2\r\nab\r\nx", "2\r\nab\r\n0\n", "x\r", "\r", " 5\r", "5 \r", "00005", "00005\r", "5;a=b",
 		"2\rx", "2\r\r", "2\r\r\n", "2\n\r", "2\n\r\n", "2\r\nabc", "2\r\nab\n", "2\r\nab\r\r", "2\r\nabc\r",
 		"12d\r", "12d\r\n", "12d\r\na", "ffff\r\nab", "2\r\nab\r\n12b\r\n", "12c\r\n" + strings.Repeat("a", 301),
 		"2\r\nab\r\nx\r", "2\r\nab\r\n\r", "2\r\nab\r\n2\rx", "2\r\nab\r\n2\r\nabc", "2\r\nabx2\r\n", "2\r\nab\r\r\n",
@@ -449,6 +467,8 @@ func TestGoodUnchunks(t *testing.T) {
 	rests := map[string]bool{
 		"": true, "5": true, "5\r\nab": true, "0\r\n\r": true, "12c\r\n": true, "2\r\nab\r\n": true, greatest: true,
 		"0\r\n\r\n": false, "0\r\n\r\nx": false, "1\r\na\r\n0\r\n\r\n": false, greatest + "\n": false,
+		"ffff": true, "12d": true, "2\r\nab\r\n0": true,
+		"g": false, "\n": false, "0\n": false, "12d\n": false, "2\r\nab\r\n0\n": false, "5 ": false,
 		"\r\n": false, "12d\r\n": false, "1\r\nab": false, "rest!": false, greatest + "x": false,
 		strings.Repeat("r", 3999): false, strings.Repeat("r", 4000): false, strings.Repeat("r", 4001): false, strings.Repeat("r", 100000): false,
 		"0\r\n\r\n" + strings.Repeat("r", 3995): false, "0\r\n\r\n" + strings.Repeat("r", 3996): false,
@@ -570,7 +590,7 @@ func chunksByForm(s string) (string, int, int) {
 	body, rest := "", s
 	for pieces := 0; ; pieces++ {
 		digits, _, ended := strings.Cut(rest, "\r")
-		if !ended && len(digits) < 5 {
+		if !ended && len(digits) < 5 && strings.Trim(digits, "0123456789abcdefABCDEF") == "" {
 			return "", 0, impl.ChunkMore
 		}
 		wide, err := strconv.ParseUint(digits, 16, 16)
