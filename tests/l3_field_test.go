@@ -413,10 +413,15 @@ var partForm = regexp.MustCompile(`^([^",]|"([^"\\]|\\.)*")*`)
 
 // listByForm takes a part of a list after another by the form of it.
 func listByForm(s string) ([]string, bool) {
-	l := []string{}
 	if len(s) > 300 || !isPlainText(s) {
-		return l, false
+		return nil, false
 	}
+	return partsByForm(s)
+}
+
+// partsByForm takes a list of any length.
+func partsByForm(s string) ([]string, bool) {
+	l := []string{}
 	for rest := s; ; {
 		part := partForm.FindString(rest)
 		if trimmed := strings.Trim(part, " "); trimmed != "" {

@@ -705,7 +705,8 @@ func TestFirstLinesOfResponses(t *testing.T) {
 	}
 }
 
-func TestBadResponses(t *testing.T) {
+// badResponses are such in their first line.
+func badResponses() []impl.Response {
 	bad := []impl.Response{{}, {Reason: "OK"}}
 	for _, status := range []int{-1 << 63, -200, -1, 0, 1, 20, 99, 600, 601, 999, 1000, 2000, 1<<32 + 200, 1<<63 - 1} {
 		bad = append(bad, impl.Response{Status: status, Reason: "OK"})
@@ -713,7 +714,11 @@ func TestBadResponses(t *testing.T) {
 	for _, reason := range []string{strings.Repeat("r", 41), strings.Repeat("r", 100000), "\x00", "\x1f", "\x7f", "\x80", "\xff", "a\tb", "ä", "\r", "\n", "a\r\nb: c", strings.Repeat("r", 40) + "\r"} {
 		bad = append(bad, impl.Response{Status: 200, Reason: reason})
 	}
-	for _, r := range bad {
+	return bad
+}
+
+func TestBadResponses(t *testing.T) {
+	for _, r := range badResponses() {
 		r.Fields, r.Body = []impl.Field{field("content-length", "2")}, "hi"
 		if impl.GoodResponse(r) {
 			t.Errorf("GoodResponse(%+v)", r)
